@@ -179,7 +179,7 @@ func TestPutRefuses(t *testing.T) {
 		// How often.
 		{"(n)", []api.Item{n(-1)}, api.ErrRange}, {"(n)", []api.Item{n(math.MinInt)}, api.ErrRange},
 		{"(n)", []api.Item{n(4001)}, api.ErrLong}, {"(n)", append([]api.Item{n(4001)}, make([]api.Item, 4001)...), api.ErrLong},
-		{"(n)", []api.Item{n(api.MaxNumber)}, api.ErrLong}, {"(n)", []api.Item{n(math.MaxInt)}, api.ErrLong}, {"(n)", []api.Item{n(4000)}, api.ErrArg},
+		{"(n)", []api.Item{n(api.MaxNumber)}, api.ErrLong}, {"(n)", []api.Item{n(4000)}, api.ErrArg},
 		// Bytes.
 		{"b", []api.Item{long(4001)}, api.ErrLong}, {"(b)", []api.Item{n(1), long(4001)}, api.ErrLong}, {"b", []api.Item{long(70000)}, api.ErrLong},
 		// Which comes first.
@@ -189,6 +189,54 @@ func TestPutRefuses(t *testing.T) {
 		{"n", []api.Item{n(-1), n(1)}, api.ErrRange}, {"b", []api.Item{long(4001), n(1)}, api.ErrLong}, {"(n)n", []api.Item{n(4001), n(-1)}, api.ErrLong},
 		{"(nb)", []api.Item{n(2), n(1), long(4001), n(-1)}, api.ErrLong},
 		{"x", []api.Item{n(-1)}, api.ErrArg}, {"(n", []api.Item{n(-1)}, api.ErrArg},
+	} {
+		if out, e := field.Put(x.shape, x.l); len(out) != 0 || e != x.want {
+			t.Errorf("put %s: %v, %v, not %v", x.shape, out, e, x.want)
+		}
+	}
+}
+
+// P3.2: how often a group is there is a number: beyond all numbers it is ErrRange, ahead of ErrLong, whatever the group's letters, and wherever it stands.
+func TestPutRefusesGroupsBeyondNumbers(t *testing.T) {
+	for _, shape := range []string{"(n)", "(b)", "(d)", "(nbd)", "(nb)n", "(n)(n)", "n(d)", "b(n)", "d(b)d", "(n)(b)"} {
+		for _, x := range []struct {
+			times int
+			want  api.Errno
+		}{
+			{math.MinInt, api.ErrRange}, {-api.MaxNumber, api.ErrRange}, {-1, api.ErrRange},
+			{4001, api.ErrLong}, {math.MaxInt32 + 1, api.ErrLong}, {api.MaxNumber - 1, api.ErrLong}, {api.MaxNumber, api.ErrLong},
+			{api.MaxNumber + 1, api.ErrRange}, {api.MaxNumber + 2, api.ErrRange}, {math.MaxInt - 1, api.ErrRange}, {math.MaxInt, api.ErrRange},
+		} {
+			l := []api.Item{n(x.times)}
+			if shape[0] != '(' {
+				l = []api.Item{{}, n(x.times)}
+			}
+			if shape == "(n)(b)" {
+				l = []api.Item{n(1), n(1), n(x.times)}
+			}
+			for range 2 {
+				if out, e := field.Put(shape, l); len(out) != 0 || e != x.want {
+					t.Errorf("put %s, %d times: %v, %v, not %v", shape, x.times, out, e, x.want)
+				}
+				// What comes behind it, of whatever kind, changes nothing.
+				l = append(l, n(-1), long(4001), d(1))
+			}
+		}
+	}
+	beyond := n(api.MaxNumber + 1)
+	for _, x := range []struct {
+		shape string
+		l     []api.Item
+		want  api.Errno
+	}{
+		// An item that has more than its letter names is that first.
+		{"(n)", []api.Item{{N: beyond.N, B: []byte{1}}}, api.ErrArg}, {"(n)", []api.Item{{N: beyond.N, ID: api.ID{31: 1}}}, api.ErrArg}, {"(n)", []api.Item{{N: 4001, ID: api.ID{1}}}, api.ErrArg},
+		// Bytes and ids have no number to be beyond.
+		{"b", []api.Item{beyond}, api.ErrArg}, {"d", []api.Item{beyond}, api.ErrArg}, {"(b)", []api.Item{n(1), beyond}, api.ErrArg}, {"(d)", []api.Item{n(1), beyond}, api.ErrArg},
+		// Of two items the first is told.
+		{"(n)(n)", []api.Item{beyond, n(4001)}, api.ErrRange}, {"(n)(n)", []api.Item{n(4001), beyond}, api.ErrLong}, {"(n)(n)", []api.Item{n(0), beyond}, api.ErrRange}, {"(n)(n)", []api.Item{n(0), n(4001)}, api.ErrLong},
+		{"b(n)", []api.Item{long(4001), beyond}, api.ErrLong}, {"(n)b", []api.Item{beyond, long(4001)}, api.ErrRange}, {"(n)n", []api.Item{n(1), n(-1), beyond}, api.ErrRange},
+		{"n(n)", []api.Item{b(1), beyond}, api.ErrArg}, {"x(n)", []api.Item{beyond}, api.ErrArg},
 	} {
 		if out, e := field.Put(x.shape, x.l); len(out) != 0 || e != x.want {
 			t.Errorf("put %s: %v, %v, not %v", x.shape, out, e, x.want)

@@ -48,7 +48,8 @@ func (w *writer) number(n int) {
 // bounded tells the error of an item that is beyond its letter's bounds.
 func bounded(letter rune, x api.Item) api.Errno {
 	switch {
-	case x.N < 0, letter == number && x.N > api.MaxNumber:
+	// How often a group is there is a number as others are, so these bounds come ahead of its own.
+	case x.N < 0, x.N > api.MaxNumber:
 		return api.ErrRange
 	case len(x.B) > api.MaxString, letter == opening && x.N > api.MaxCount:
 		return api.ErrLong
